@@ -8,6 +8,7 @@ import (
 	"maps"
 	"slices"
 	"strings"
+	"sync/atomic"
 	"testing"
 
 	"journal/api"
@@ -31,6 +32,8 @@ type disk struct {
 	fault  func(call int) error // what a call answers (1, 2 ..)
 	done   bool                 // a call that fails has done its work
 	behind func()               // is called behind each call
+	busy   atomic.Bool          // a call is on
+	beside atomic.Bool          // a call came while another one was on
 }
 
 // diskOf is a disk with some files, all safe.
@@ -43,6 +46,10 @@ func diskOf(files map[string]string) *disk {
 }
 
 func (d *disk) call(what string, do func()) error {
+	if d.busy.Swap(true) {
+		d.beside.Store(true)
+	}
+	defer d.busy.Store(false)
 	d.asked = append(d.asked, what)
 	var err error
 	if d.fault != nil {

@@ -33,6 +33,10 @@ func readFile(f api.Files, name string) ([]byte, error) {
 	return b, err
 }
 
+func appendFile(f api.Files, name string, b []byte) error {
+	return ask(func() error { return f.Append(name, b) })
+}
+
 func removeFile(f api.Files, name string) error {
 	return ask(func() error { return f.Remove(name) })
 }

@@ -10,6 +10,14 @@ type found struct {
 	good     int      // the good length of the last segment
 }
 
+// last is the name of the last segment; empty, if there is none.
+func (l *found) last() string {
+	if len(l.segments) == 0 {
+		return ""
+	}
+	return l.segments[len(l.segments)-1]
+}
+
 // findLog reads the log of some files of which the segments are named; it changes nothing.
 func findLog(f api.Files, names []string) (*found, error) {
 	l := &found{log: newLog()}
@@ -45,11 +53,11 @@ func tidy(f api.Files, names []string, l *found) error {
 			return err
 		}
 	}
-	if len(l.segments) == 0 {
+	last := l.last()
+	if last == "" {
 		return nil
 	}
 	// Only the last one can be longer than is good: the log does not go on behind such a one.
-	last := l.segments[len(l.segments)-1]
 	if l.size != l.good {
 		if err := cutFile(f, last, l.good); err != nil {
 			return err

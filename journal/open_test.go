@@ -444,9 +444,11 @@ func TestOpenOfFilesThatTellAnything(t *testing.T) {
 			}
 			return b, nil
 		}
-		if s, err := journal.Open(odd{d, []string{seg0, seg1, seg2}, give}); err != nil || len(all(s)) != 0 {
+		s, err := journal.Open(odd{d, []string{seg0, seg1, seg2}, give})
+		if err != nil || len(all(s)) != 0 {
 			t.Fatalf("P1: Open over noise = %v, %v", s, err)
 		}
+		s.Close()
 	}
 }
 
@@ -502,6 +504,7 @@ func TestOpenOfAnyPieces(t *testing.T) {
 		if got := lengths(d.now()); !maps.Equal(got, good) {
 			t.Fatalf("P7: seed %d: the files are %v, want %v", seed, got, good)
 		}
+		s.Close()
 		events, segments = max(events, len(want)), max(segments, len(good))
 		if slices.ContainsFunc(d.asked, func(what string) bool { return strings.HasPrefix(what, "Cut ") }) {
 			cuts++

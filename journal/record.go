@@ -35,11 +35,7 @@ func Frame(e api.Event) ([]byte, error) {
 	if err := eventError(e); err != nil {
 		return nil, err
 	}
-	p := payload(e)
-	b := make([]byte, 0, frontSize+len(p))
-	b = appendNumber(b, uint64(len(p)), lengthSize)
-	b = appendNumber(b, uint64(Sum(p)), checkSize)
-	return append(b, p...), nil
+	return appendRecord(nil, e), nil
 }
 
 // Parse reads the record at the beginning of some bytes (P5).
@@ -69,16 +65,28 @@ func Parse(b []byte) (api.Event, int, api.Verdict) {
 
 // eventError tells why an event has no record; the order is the document's.
 func eventError(e api.Event) error {
-	if len(e.Stream) == 0 || len(e.Stream) > api.MaxStream {
+	if !isStream(e.Stream) {
 		return api.ErrStream
 	}
-	if len(e.Data) > api.MaxData {
+	if !isData(e.Data) {
 		return api.ErrData
 	}
 	if e.Version < 1 || e.Position < 0 {
 		return api.ErrBatch
 	}
 	return nil
+}
+
+func isStream(name string) bool { return len(name) > 0 && len(name) <= api.MaxStream }
+
+func isData(data string) bool { return len(data) <= api.MaxData }
+
+// appendRecord puts the record of an event behind b; eventError has nothing against the event.
+func appendRecord(b []byte, e api.Event) []byte {
+	p := payload(e)
+	b = appendNumber(b, uint64(len(p)), lengthSize)
+	b = appendNumber(b, uint64(Sum(p)), checkSize)
+	return append(b, p...)
 }
 
 func payload(e api.Event) []byte {
