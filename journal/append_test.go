@@ -2,7 +2,6 @@ package journal_test
 
 import (
 	"bytes"
-	"errors"
 	"fmt"
 	"maps"
 	"math"
@@ -534,121 +533,5 @@ func TestAppendToFilesThatSpoilWhatTheyGet(t *testing.T) {
 	m := modelOf(nil)
 	for range 20 {
 		mustAppend(t, s, d, m, "a", api.Any, "x", "y")
-	}
-}
-
-// openFull is a store whose next batch needs a new segment (or not: it goes into the last one).
-func openFull(t *testing.T, full bool) (*journal.Store, *disk) {
-	t.Helper()
-	size := 120
-	if full {
-		size = 200
-	}
-	d := diskOf(map[string]string{seg0: filled(size)})
-	s := mustOpen(t, d)
-	d.asked = nil
-	return s, d
-}
-
-// checkStopped: the store has failed for good, tells what had been appended, and lets the files be.
-func checkStopped(t *testing.T, what string, s *journal.Store, d *disk, want []api.Event) {
-	t.Helper()
-	asked := len(d.asked)
-	for range 2 {
-		if v, err := s.Append("f", 99, "x"); v != 0 || err != api.ErrFailed {
-			t.Errorf("P12: %s: Append of a store that has failed = %d, %v", what, v, err)
-		}
-		if got := all(s); !slices.Equal(got, want) {
-			t.Errorf("P12: %s: All tells %q, want %q", what, text(got), text(want))
-		}
-		if got := s.Version("f"); got != int64(len(want)) {
-			t.Errorf("P12: %s: the version is %d, want %d", what, got, len(want))
-		}
-	}
-	if err := s.Close(); err != nil {
-		t.Errorf("P13: %s: Close of a store that has failed = %v", what, err)
-	}
-	if len(d.asked) != asked {
-		t.Errorf("P12: %s: the files were asked %q behind the error", what, d.asked[asked:])
-	}
-}
-
-func TestAppendFailsWithTheFiles(t *testing.T) {
-	for mode := range 8 {
-		full, dead, done := mode&1 != 0, mode&2 != 0, mode&4 != 0
-		for at := 1; at <= 2; at++ {
-			what := fmt.Sprintf("call %d fails, mode %d", at, mode)
-			s, d := openFull(t, full)
-			want := all(s)
-			d.fault, d.done = failing(at, dead), done
-			v, err := s.Append("f", api.Any, "1", "2", "3")
-			e, ok := err.(*api.FailError)
-			if v != 0 || !ok || e.Err != errDisk || !errors.Is(err, api.ErrFailed) {
-				t.Errorf("P12: %s: Append = %d, %#v", what, v, err)
-			}
-			if len(d.asked) != at {
-				t.Errorf("P12: %s: the files were asked %q", what, d.asked)
-			}
-			checkStopped(t, what, s, d, want)
-			d.fault = nil
-			more := want
-			if at == 2 || done {
-				n := int64(len(want))
-				more = append(slices.Clone(want), event("f", n+1, n, "1"), event("f", n+2, n+1, "2"), event("f", n+3, n+2, "3"))
-			}
-			if got := all(mustOpen(t, d)); !slices.Equal(got, more) {
-				t.Errorf("P12: %s: opened anew, All tells %q, want %q", what, text(got), text(more))
-			}
-		}
-	}
-}
-
-func TestAppendCatchesFilesThatPanic(t *testing.T) {
-	for at := 1; at <= 2; at++ {
-		s, d := openFull(t, at == 1)
-		want := all(s)
-		d.fault = func(call int) error {
-			if call == at {
-				panic("the disk")
-			}
-			return nil
-		}
-		if v, err := s.Append("f", api.Any, "1"); v != 0 || !errors.Is(err, api.ErrFailed) {
-			t.Errorf("P1: call %d panics: Append = %d, %v", at, v, err)
-		}
-		checkStopped(t, fmt.Sprint("panic at ", at), s, d, want)
-	}
-}
-
-// However the power fails while a batch is appended, all that was told is there, and a beginning of the batch.
-func TestPowerFailsWithinAppend(t *testing.T) {
-	d := diskOf(nil)
-	s := mustOpen(t, d)
-	var before []api.Event
-	batch := []string{"first", "", "third"}
-	d.behind = func() {
-		for _, files := range d.crashes() {
-			got, _ := logOf(files)
-			n := len(got) - len(before)
-			if n < 0 || n > len(batch) || !slices.Equal(got[:len(before)], before) {
-				t.Fatalf("P14: behind %q the log is %q, was %q", d.asked, text(got), text(before))
-			}
-			for i, e := range got[len(before):] {
-				if e != event("a", int64(len(before)+i)+1, int64(len(before)+i), batch[i]) {
-					t.Fatalf("P14: behind %q the log is %q, was %q", d.asked, text(got), text(before))
-				}
-			}
-		}
-	}
-	for range 8 {
-		if _, err := s.Append("a", api.Any, batch...); err != nil {
-			t.Fatalf("P11: Append = %v", err)
-		}
-		before = all(s)
-		for _, files := range d.crashes() {
-			if got, _ := logOf(files); !slices.Equal(got, before) {
-				t.Errorf("P11: behind the answer the log may be %q, want %q", text(got), text(before))
-			}
-		}
 	}
 }

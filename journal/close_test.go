@@ -93,7 +93,7 @@ func TestOpenThatFailsLeavesNoGoroutine(t *testing.T) {
 	}
 }
 
-// slow is files whose Sync waits till it is let go.
+// slow is files whose Sync tells that it has begun, and waits till all of them are let go.
 type slow struct {
 	*disk
 	begun, let chan struct{}
@@ -107,14 +107,18 @@ func (f slow) Sync(name string) error {
 
 func TestCloseWaitsForTheAppendThatIsOn(t *testing.T) {
 	d := diskOf(nil)
-	f := slow{d, make(chan struct{}), make(chan struct{})}
+	f := slow{d, make(chan struct{}, 10), make(chan struct{})}
 	s := mustOpen(t, f)
 	appended := make(chan api.Done, 1)
 	go func() {
 		v, err := s.Append("a", api.New, "x", "y")
 		appended <- api.Done{Version: v, Err: err}
 	}()
-	<-f.begun
+	select {
+	case <-f.begun:
+	case done := <-appended:
+		t.Fatalf("P11: Append answers %+v without Sync", done)
+	}
 	closed := make(chan error, 1)
 	go func() { closed <- s.Close() }()
 	select {
@@ -127,7 +131,7 @@ func TestCloseWaitsForTheAppendThatIsOn(t *testing.T) {
 	if v := s.Version("a"); v != 0 || all(s) != nil {
 		t.Errorf("P11: ahead of Sync the version is %d", v)
 	}
-	f.let <- struct{}{}
+	close(f.let)
 	if done := <-appended; done.Version != 2 || done.Err != nil {
 		t.Errorf("P11: Append = %+v", done)
 	}

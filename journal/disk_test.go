@@ -17,10 +17,11 @@ import (
 
 var errDisk = errors.New("the disk")
 
-// kept is a file: what of it is safe, what stands there, and whether it was ever safe.
+// kept is a file: what of it is safe, what stands there, whether it was ever safe, and what stood there ahead of each cut that is not safe.
 type kept struct {
 	safe, now string
 	made      bool
+	was       []string
 }
 
 // disk is files that tell what was asked of them, and fail where they are told to.
@@ -31,6 +32,7 @@ type disk struct {
 	copies [][]byte             // and what that was then
 	fault  func(call int) error // what a call answers (1, 2 ..)
 	done   bool                 // a call that fails has done its work
+	part   int                  // above 0: an Append, Sync or Cut that fails has done its work with one byte less than part
 	behind func()               // is called behind each call
 	busy   atomic.Bool          // a call is on
 	beside atomic.Bool          // a call came while another one was on
@@ -40,12 +42,13 @@ type disk struct {
 func diskOf(files map[string]string) *disk {
 	d := &disk{files: map[string]*kept{}}
 	for name, text := range files {
-		d.files[name] = &kept{text, text, true}
+		d.files[name] = &kept{safe: text, now: text, made: true}
 	}
 	return d
 }
 
-func (d *disk) call(what string, do func()) error {
+// call is one call of the files; half is what a call may do that fails.
+func (d *disk) call(what string, do func(), half ...func()) error {
 	if d.busy.Swap(true) {
 		d.beside.Store(true)
 	}
@@ -57,6 +60,10 @@ func (d *disk) call(what string, do func()) error {
 	}
 	if err == nil || d.done {
 		do()
+	} else {
+		for _, some := range half {
+			some()
+		}
 	}
 	if d.behind != nil {
 		d.behind()
@@ -90,26 +97,45 @@ func (d *disk) Read(name string) ([]byte, error) {
 }
 
 func (d *disk) Append(name string, b []byte) error {
-	return d.call("Append "+name, func() {
+	put := func(b []byte) {
 		if d.files[name] == nil {
 			d.files[name] = &kept{}
 		}
 		d.files[name].now += string(b)
+	}
+	return d.call("Append "+name, func() { put(b) }, func() {
+		if d.part > 0 {
+			put(b[:min(d.part-1, len(b))])
+		}
 	})
 }
 
 func (d *disk) Sync(name string) error {
+	f := d.files[name]
 	return d.call("Sync "+name, func() {
-		if f := d.files[name]; f != nil {
-			f.safe, f.made = f.now, true
+		if f != nil {
+			f.safe, f.made, f.was = f.now, true, nil
+		}
+	}, func() {
+		if f != nil && d.part > 0 && strings.HasPrefix(f.now, f.safe) {
+			f.safe, f.made = f.now[:min(len(f.safe)+d.part-1, len(f.now))], true
 		}
 	})
 }
 
 func (d *disk) Cut(name string, size int) error {
+	f := d.files[name]
+	cut := func(size int) {
+		f.was = append(f.was, f.now)
+		f.now = f.now[:size]
+	}
 	return d.call("Cut "+name, func() {
-		if f := d.files[name]; f != nil {
-			f.now = f.now[:size]
+		if f != nil {
+			cut(size)
+		}
+	}, func() {
+		if f != nil && d.part > 0 {
+			cut(max(size, len(f.now)-d.part+1))
 		}
 	})
 }
@@ -141,17 +167,21 @@ func (d *disk) changes() []string {
 // crashes is all that the files can be when the power fails now.
 func (d *disk) crashes() []map[string]string {
 	l := []map[string]string{{}}
-	for name, f := range d.files {
+	for _, name := range slices.Sorted(maps.Keys(d.files)) {
+		f := d.files[name]
 		var next []map[string]string
 		for _, files := range l {
 			if !f.made {
 				next = append(next, maps.Clone(files))
 			}
-			for _, text := range f.ends() {
+			ends := f.ends()
+			for _, text := range ends[1:] {
 				with := maps.Clone(files)
 				with[name] = text
 				next = append(next, with)
 			}
+			files[name] = ends[0]
+			next = append(next, files)
 		}
 		l = next
 	}
@@ -160,14 +190,18 @@ func (d *disk) crashes() []map[string]string {
 
 // ends is what can be left of a file.
 func (f *kept) ends() []string {
-	if !strings.HasPrefix(f.now, f.safe) {
-		return []string{f.safe, f.now}
+	l := []string{f.safe}
+	for _, text := range append(slices.Clone(f.was), f.now) {
+		n := len(text) // of a file that was cut below what is safe no further end can be left
+		if strings.HasPrefix(text, f.safe) {
+			n = len(f.safe)
+		}
+		for ; n <= len(text); n++ {
+			l = append(l, text[:n])
+		}
 	}
-	var l []string
-	for n := len(f.safe); n <= len(f.now); n++ {
-		l = append(l, f.now[:n])
-	}
-	return l
+	slices.Sort(l)
+	return slices.Compact(l)
 }
 
 // head is the head of a segment.

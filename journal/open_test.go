@@ -177,7 +177,7 @@ func TestOpenMakesTheLastSegmentSafe(t *testing.T) {
 	whole := map[string]string{seg0: head(0) + recA1 + recA2, seg2: head(2) + recB1}
 	for what, tail := range map[string]string{"nothing to cut": "", "a byte to cut": "!"} {
 		d := diskOf(whole)
-		d.files[seg2] = &kept{"", whole[seg2] + tail, false}
+		d.files[seg2] = &kept{now: whole[seg2] + tail}
 		mustOpen(t, d)
 		if f := d.files[seg2]; !f.made || f.safe != whole[seg2] {
 			t.Errorf("P7: %s: of the last segment %x is safe, want %x", what, f.safe, whole[seg2])
@@ -237,13 +237,10 @@ func TestOpenOfNoFiles(t *testing.T) {
 // checkFailed: the call has answered just this error in a FailError, and no store.
 func checkFailed(t *testing.T, what string, s *journal.Store, err, want error) {
 	t.Helper()
-	f, ok := err.(*api.FailError)
-	if s != nil || !ok {
+	if s != nil {
 		t.Fatalf("P6: %s: Open = %v, %#v, want a *FailError alone", what, s, err)
 	}
-	if f.Err != want || !errors.Is(err, want) || !errors.Is(err, api.ErrFailed) {
-		t.Errorf("P6: %s: the error is %#v, want %#v within it", what, f.Err, want)
-	}
+	checkFailError(t, what, err, want)
 }
 
 // A log with all that Open mends: each method that it uses is called.
@@ -283,11 +280,11 @@ func TestOpenFailsWithTheFiles(t *testing.T) {
 		clean := diskOf(c.files)
 		mustOpen(t, clean)
 		want, _ := logOf(c.files)
-		for mode := range 4 {
+		for mode := range 8 {
 			for at := 1; at <= len(clean.asked); at++ {
 				what := fmt.Sprintf("%s: call %d (%s) fails, mode %d", c.what, at, clean.asked[at-1], mode)
 				d := diskOf(c.files)
-				d.fault, d.done = failing(at, mode&1 != 0), mode&2 != 0
+				d.fault, d.done, d.part = failing(at, mode&1 != 0), mode&2 != 0, mode/4*3
 				s, err := journal.Open(d)
 				checkFailed(t, what, s, err, errDisk)
 				for _, files := range append(d.crashes(), d.now()) {
@@ -346,10 +343,7 @@ type ownError struct{}
 func (e *ownError) Error() string { return "own" }
 
 func TestOpenTellsAnyErrorOfTheFiles(t *testing.T) {
-	for _, want := range []error{
-		errDisk, api.ErrClosed, api.ErrFailed, api.ErrStream, &api.FailError{Err: errDisk}, &api.VersionError{},
-		(*ownError)(nil), errors.Join(errDisk, api.ErrData),
-	} {
+	for _, want := range filesErrors() {
 		for at := 1; at <= 8; at++ {
 			d := diskOf(untidy())
 			d.fault = func(call int) error {
@@ -407,10 +401,11 @@ func TestOpenCatchesFilesThatPanic(t *testing.T) {
 type odd struct {
 	*disk
 	list []string
+	err  error // is told with the list
 	give func(name string) ([]byte, error)
 }
 
-func (o odd) Names() ([]string, error) { return o.list, nil }
+func (o odd) Names() ([]string, error) { return o.list, o.err }
 
 func (o odd) Read(name string) ([]byte, error) { return o.give(name) }
 
@@ -418,7 +413,7 @@ func TestOpenTakesNamesAsTheyCome(t *testing.T) {
 	list := []string{seg3, "other", seg0, seg3, seg0, "", seg2, seg0, "other", seg3}
 	room := append(slices.Clone(list), "room", "room")
 	d := diskOf(map[string]string{seg0: head(0) + recA1 + recA2, seg2: head(2) + recB1[:5], seg3: ""})
-	s := mustOpen(t, odd{d, room[:len(list)], d.Read})
+	s := mustOpen(t, odd{d, room[:len(list)], nil, d.Read})
 	if got := text(all(s)); got != "0:a1=x 1:a2=y" {
 		t.Errorf("P7: All tells %q", got)
 	}
@@ -444,7 +439,7 @@ func TestOpenOfFilesThatTellAnything(t *testing.T) {
 			}
 			return b, nil
 		}
-		s, err := journal.Open(odd{d, []string{seg0, seg1, seg2}, give})
+		s, err := journal.Open(odd{d, []string{seg0, seg1, seg2}, nil, give})
 		if err != nil || len(all(s)) != 0 {
 			t.Fatalf("P1: Open over noise = %v, %v", s, err)
 		}
