@@ -2,11 +2,8 @@ package journal_test
 
 import (
 	"fmt"
-	"maps"
 	"math"
 	"runtime"
-	"slices"
-	"sync"
 	"testing"
 	"time"
 
@@ -141,118 +138,4 @@ func TestCloseWaitsForTheAppendThatIsOn(t *testing.T) {
 	if got, _ := logOf(d.now()); text(got) != "0:a1=x 1:a2=y" {
 		t.Errorf("P11: the log is %q", text(got))
 	}
-}
-
-// client appends with Any till the store is closed, and tells how often that was fine.
-func client(t *testing.T, s *journal.Store, stream string, n int) int {
-	for i := range n {
-		v, err := s.Append(stream, api.Any, "x", "y")
-		if err == api.ErrClosed && v == 0 {
-			if w := s.Version(stream); w != 0 || len(all(s)) != 0 {
-				t.Errorf("P13: behind ErrClosed the version is %d", w)
-			}
-			return i
-		}
-		if err != nil || v != int64(2*i+2) {
-			t.Errorf("P11: Append = %d, %v, want %d", v, err, 2*i+2)
-		}
-	}
-	return n
-}
-
-func TestAppendsAndCloseAtOnce(t *testing.T) {
-	for round := range 60 {
-		d := diskOf(nil)
-		s := mustOpen(t, d)
-		fine := make([]int, 6)
-		closes := make([]error, 3)
-		var group sync.WaitGroup
-		for i := range fine {
-			group.Go(func() { fine[i] = client(t, s, fmt.Sprint("s", i), 20) })
-		}
-		for i := range closes {
-			group.Go(func() {
-				for range round * 20 { // each round closes later
-					runtime.Gosched()
-				}
-				closes[i] = s.Close()
-			})
-		}
-		group.Wait()
-		slices.SortFunc(closes, func(a, b error) int {
-			if a == nil {
-				return -1
-			}
-			return 1
-		})
-		if !slices.Equal(closes, []error{nil, api.ErrClosed, api.ErrClosed}) {
-			t.Fatalf("P13: Close at once answers %v", closes)
-		}
-		got := map[string]int{}
-		for _, e := range all(mustOpen(t, d)) {
-			got[e.Stream]++
-		}
-		want := map[string]int{}
-		for i, n := range fine {
-			if n > 0 {
-				want[fmt.Sprint("s", i)] = 2 * n
-			}
-		}
-		if !maps.Equal(got, want) {
-			t.Fatalf("P11: opened anew the streams have %v events, want %v", got, want)
-		}
-		if d.beside.Load() {
-			t.Fatal("P2: two goroutines called the files at once")
-		}
-	}
-}
-
-// Each of two that expect the same version is answered, and one of them alone is taken.
-func TestOneOfTwoIsTaken(t *testing.T) {
-	d := diskOf(nil)
-	s := mustOpen(t, d)
-	for have := range int64(200) {
-		done := make([]api.Done, 2)
-		var group sync.WaitGroup
-		for i := range done {
-			group.Go(func() { done[i].Version, done[i].Err = s.Append("a", have, "x") })
-		}
-		group.Wait()
-		if done[0].Err != nil {
-			slices.Reverse(done)
-		}
-		e, ok := done[1].Err.(*api.VersionError)
-		if done[0] != (api.Done{Version: have + 1}) || done[1].Version != 0 || !ok || *e != (api.VersionError{Stream: "a", Want: have, Have: have + 1}) {
-			t.Fatalf("P10: two Appends at once answer %+v", done)
-		}
-	}
-	if d.beside.Load() {
-		t.Error("P2: two goroutines called the files at once")
-	}
-}
-
-// Who reads while others append sees whole batches, in their order.
-func TestReadingWhileOthersAppend(t *testing.T) {
-	s := mustOpen(t, diskOf(nil))
-	var group sync.WaitGroup
-	for i := range 3 {
-		group.Go(func() { client(t, s, fmt.Sprint("s", i), 60) })
-		group.Go(func() {
-			for s.Version(fmt.Sprint("s", i)) < 120 {
-				events := all(s)
-				for k, e := range events {
-					if e.Position != int64(k) {
-						t.Errorf("P9: All tells the position %d as number %d", e.Position, k)
-					}
-				}
-				if len(events)%2 != 0 {
-					t.Errorf("P15: All tells %d events: half a batch", len(events))
-				}
-				if n := len(pairs(t, s.Read(fmt.Sprint("s", i), 0), 0)); n%2 != 0 {
-					t.Errorf("P15: Read tells %d events: half a batch", n)
-				}
-			}
-		})
-	}
-	group.Wait()
 }

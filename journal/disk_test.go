@@ -8,8 +8,10 @@ import (
 	"maps"
 	"slices"
 	"strings"
+	"sync"
 	"sync/atomic"
 	"testing"
+	"time"
 
 	"journal/api"
 	"journal/journal"
@@ -27,6 +29,7 @@ type kept struct {
 // disk is files that tell what was asked of them, and fail where they are told to.
 type disk struct {
 	files  map[string]*kept
+	lock   sync.Mutex // is held while a call changes the files
 	asked  []string
 	gave   [][]byte             // what Read has given
 	copies [][]byte             // and what that was then
@@ -58,6 +61,7 @@ func (d *disk) call(what string, do func(), half ...func()) error {
 	if d.fault != nil {
 		err = d.fault(len(d.asked))
 	}
+	d.lock.Lock()
 	if err == nil || d.done {
 		do()
 	} else {
@@ -65,6 +69,7 @@ func (d *disk) call(what string, do func(), half ...func()) error {
 			some()
 		}
 	}
+	d.lock.Unlock()
 	if d.behind != nil {
 		d.behind()
 	}
@@ -188,6 +193,13 @@ func (d *disk) crashes() []map[string]string {
 	return l
 }
 
+// crashesNow is crashes, also while others append.
+func (d *disk) crashesNow() []map[string]string {
+	d.lock.Lock()
+	defer d.lock.Unlock()
+	return d.crashes()
+}
+
 // ends is what can be left of a file.
 func (f *kept) ends() []string {
 	l := []string{f.safe}
@@ -250,8 +262,23 @@ func mustOpen(t *testing.T, f api.Files) *journal.Store {
 	if err != nil || s == nil {
 		t.Fatalf("P7: Open = %v, %v", s, err)
 	}
-	t.Cleanup(func() { s.Close() })
+	t.Cleanup(func() { ended(func() { s.Close() }) })
 	return s
+}
+
+// ended has something done, and tells whether it has ended: what waits for ever is not waited for.
+func ended(do func()) bool {
+	done := make(chan struct{})
+	go func() {
+		defer close(done)
+		do()
+	}()
+	select {
+	case <-done:
+		return true
+	case <-time.After(20 * time.Second):
+		return false
+	}
 }
 
 // all is what All tells from the first event on.

@@ -6,7 +6,6 @@ import (
 	"maps"
 	"slices"
 	"strings"
-	"sync"
 	"testing"
 
 	"journal/api"
@@ -302,71 +301,6 @@ func TestOpenTakesNothingBesideAnError(t *testing.T) {
 			checkFailed(t, fmt.Sprintf("Read of %q answers %q and an error", failed, give), s, err, errDisk)
 			if len(d.changes()) != 0 || !maps.Equal(d.now(), whole) {
 				t.Errorf("P8: behind the error Open did %q", d.changes())
-			}
-		}
-	}
-}
-
-// tally is what came of Appends at once.
-type tally struct {
-	lock  sync.Mutex
-	fine  map[string]int64 // the version that each stream was told last
-	broke []string         // the streams whose Append was told how the files failed
-}
-
-// work appends to a stream of its own till it is told an error (which comes ahead of so many batches).
-func (l *tally) work(t *testing.T, s *journal.Store, stream string) {
-	for range 50 {
-		v, err := s.Append(stream, api.Any, "x", "y", "z")
-		l.lock.Lock()
-		if err == nil {
-			l.fine[stream] = v
-		} else if _, ok := err.(*api.FailError); ok {
-			l.broke = append(l.broke, stream)
-		} else if err != api.ErrFailed {
-			t.Errorf("P12: Append answers %v", err)
-		}
-		l.lock.Unlock()
-		if err != nil {
-			if v != 0 {
-				t.Errorf("P1: Append answers %d with %v", v, err)
-			}
-			return
-		}
-	}
-}
-
-func TestFilesFailWhileManyAppend(t *testing.T) {
-	for round := range 60 {
-		d := diskOf(nil)
-		d.fault, d.part = failing(2+round, false), 1+round*3
-		s := mustOpen(t, d)
-		l := &tally{fine: map[string]int64{}}
-		var group sync.WaitGroup
-		for i := range 6 {
-			group.Go(func() { l.work(t, s, fmt.Sprint("s", i)) })
-		}
-		group.Wait()
-		if len(l.broke) == 0 || len(d.asked) != 2+round || d.beside.Load() {
-			t.Fatalf("P12: round %d: %d Appends were told the error, the files were asked %d times", round, len(l.broke), len(d.asked))
-		}
-		for i := range 6 {
-			stream := fmt.Sprint("s", i)
-			if got := s.Version(stream); got != l.fine[stream] {
-				t.Errorf("P12: round %d: the version is %d, told were %d", round, got, l.fine[stream])
-			}
-		}
-		told := all(s)
-		if err := s.Close(); err != nil {
-			t.Errorf("P12: Close = %v", err)
-		}
-		got := all(mustOpen(t, d))
-		if len(got) < len(told) || len(got) > len(told)+3 || !slices.Equal(got[:len(told)], told) {
-			t.Fatalf("P12: round %d: opened anew, All tells %q, was %q", round, text(got), text(told))
-		}
-		for _, e := range got[len(told):] {
-			if !slices.Contains(l.broke, e.Stream) {
-				t.Errorf("P12: round %d: opened anew, All tells %v behind %q", round, e, text(told))
 			}
 		}
 	}

@@ -149,6 +149,16 @@ func TestAllFromAnyPosition(t *testing.T) {
 	}
 }
 
+func TestReadKeepsNothing(t *testing.T) {
+	s := stored(t)
+	stream, b := loose("a")
+	seq := s.Read(stream, 2)
+	b[0] = 'b'
+	if got := pairs(t, seq, 0); !slices.Equal(got, []string{"2=", "3=z"}) {
+		t.Errorf("P2: Read(a, 2) tells %q when the name is changed behind the call", got)
+	}
+}
+
 func TestGoingThroughNothing(t *testing.T) {
 	s := mustOpen(t, diskOf(nil))
 	for _, from := range []int64{math.MinInt64, -1, 0, 1, math.MaxInt64} {
